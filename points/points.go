@@ -1,0 +1,31 @@
+// Package points asks lists of points: what several layers need of them.
+package points
+
+import (
+	"sort"
+
+	"tidewrack/api"
+)
+
+// InOrder asks whether T rises, each from -MaxTime to MaxTime.
+func InOrder(ps []api.Point) bool {
+	least := int64(-api.MaxTime)
+	for _, p := range ps {
+		if p.T < least || p.T > api.MaxTime {
+			return false
+		}
+		least = p.T + 1
+	}
+	return true
+}
+
+// FirstFrom is the place of the first point whose T is not below t. (Of a list whose T rises, as Between.)
+func FirstFrom(ps []api.Point, t int64) int {
+	return sort.Search(len(ps), func(i int) bool { return ps[i].T >= t })
+}
+
+// Between has the points with T from from to to: a piece of ps, not to be handed out. (There may be no number behind to.)
+func Between(ps []api.Point, from int64, to int64) []api.Point {
+	ps = ps[FirstFrom(ps, from):]
+	return ps[:sort.Search(len(ps), func(i int) bool { return ps[i].T > to })]
+}
