@@ -7,16 +7,19 @@ import (
 	"tidewrack/api"
 )
 
-// InOrder asks whether T rises, each from -MaxTime to MaxTime.
-func InOrder(ps []api.Point) bool {
-	least := int64(-api.MaxTime)
-	for _, p := range ps {
-		if p.T < least || p.T > api.MaxTime {
+// Rising asks whether each T is above the one ahead.
+func Rising(ps []api.Point) bool {
+	for i := range ps {
+		if i > 0 && ps[i-1].T >= ps[i].T {
 			return false
 		}
-		least = p.T + 1
 	}
 	return true
+}
+
+// InOrder asks whether T rises, each from -MaxTime to MaxTime.
+func InOrder(ps []api.Point) bool {
+	return len(ps) == 0 || ps[0].T >= -api.MaxTime && ps[len(ps)-1].T <= api.MaxTime && Rising(ps)
 }
 
 // FirstFrom is the place of the first point whose T is not below t. (Of a list whose T rises, as Between.)

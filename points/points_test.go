@@ -33,6 +33,23 @@ func TestInOrder(t *testing.T) {
 	}
 }
 
+// TestRising: as far as numbers go.
+func TestRising(t *testing.T) {
+	for _, x := range []struct {
+		ps   []api.Point
+		want bool
+	}{
+		{nil, true}, {at(0), true}, {at(math.MinInt64), true}, {at(math.MaxInt64), true}, {at(math.MinInt64, math.MaxInt64), true}, {at(-1, 0, 1), true},
+		{at(math.MinInt64, math.MinInt64+1, 0, math.MaxInt64-1, math.MaxInt64), true},
+		{at(0, 0), false}, {at(1, 0), false}, {at(0, 1, 1), false}, {at(0, 2, 1), false}, {at(1, 0, 2), false}, {at(0, 0, 1), false},
+		{at(math.MaxInt64, math.MinInt64), false}, {at(math.MaxInt64, math.MaxInt64), false}, {at(math.MinInt64, math.MinInt64), false}, {at(0, math.MaxInt64, math.MinInt64), false},
+	} {
+		if got := Rising(x.ps); got != x.want {
+			t.Errorf("Rising(%v): %v", x.ps, got)
+		}
+	}
+}
+
 // TestPieces holds FirstFrom and Between against the points, asked one by one.
 func TestPieces(t *testing.T) {
 	bounds := []int64{math.MinInt64, math.MinInt64 + 1, -api.MaxTime, -3, -2, -1, 0, 1, 2, 3, 4, 5, 6, 7, api.MaxTime, math.MaxInt64 - 1, math.MaxInt64}
