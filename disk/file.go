@@ -4,6 +4,7 @@ import (
 	"slices"
 
 	"tidewrack/api"
+	"tidewrack/names"
 )
 
 // file: the first synced of its bytes stay when the power goes.
@@ -24,12 +25,12 @@ func (f *file) clone() *file {
 }
 
 // reach tells why no file of these names can be come to, be it there or not.
-func (d *Disk) reach(names ...string) api.Errno {
+func (d *Disk) reach(files ...string) api.Errno {
 	if d.off {
 		return api.ErrDiskOff
 	}
-	for _, name := range names {
-		if !isName(name) {
+	for _, name := range files {
+		if !names.OfFile(name) {
 			return api.ErrDiskName
 		}
 	}
@@ -54,20 +55,4 @@ func (d *Disk) hasRoom(name string, more int) bool {
 		return len(d.files) < api.MaxFiles && more <= api.MaxFile
 	}
 	return more <= api.MaxFile-len(f.bytes)
-}
-
-func isName(s string) bool {
-	if len(s) < 1 || len(s) > api.MaxName {
-		return false
-	}
-	for i := range len(s) {
-		if !isNameByte(s[i]) {
-			return false
-		}
-	}
-	return true
-}
-
-func isNameByte(c byte) bool {
-	return 'a' <= c && c <= 'z' || '0' <= c && c <= '9' || c == '/' || c == '.' || c == '-'
 }

@@ -5,7 +5,7 @@ import (
 	"strings"
 
 	"tidewrack/api"
-	"tidewrack/disk"
+	"tidewrack/names"
 )
 
 const (
@@ -13,10 +13,8 @@ const (
 	digits    = 8
 )
 
-// isFolder asks a disk of its own what a disk's name is: the one that is handed to Open may be off, and would not tell.
 func isFolder(dir string) bool {
-	_, e := disk.New().Read(dir)
-	return e != api.ErrDiskName && len(dir) <= maxFolder
+	return names.OfFile(dir) && len(dir) <= maxFolder
 }
 
 func (w *Wal) segment(number int) string {

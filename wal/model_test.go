@@ -13,6 +13,7 @@ import (
 
 	"tidewrack/api"
 	"tidewrack/disk"
+	"tidewrack/peek"
 )
 
 // op is one write of those that the chapter asks for. What a call does is held against the same writes, done by hand on a twin of its disk.
@@ -38,28 +39,12 @@ func do(d *disk.Disk, ops ...op) api.Errno {
 	return api.OK
 }
 
-// peek tells the files of a disk, be it off.
-func peek(d *disk.Disk) map[string]string {
-	d = d.Clone()
-	d.On()
+func filesOf(d *disk.Disk) map[string]string {
 	files := map[string]string{}
-	for _, name := range d.List("") {
-		b, _ := d.Read(name)
-		files[name] = string(b)
+	for _, f := range peek.Files(d) {
+		files[f.Name] = string(f.Data)
 	}
 	return files
-}
-
-// safe tells what stays of a disk's files if the power goes.
-func safe(d *disk.Disk) map[string]string {
-	d = d.Clone()
-	d.On()
-	d.Off(-1)
-	return peek(d)
-}
-
-func alike(a, b *disk.Disk) bool {
-	return a.Up() == b.Up() && a.Writes() == b.Writes() && maps.Equal(peek(a), peek(b)) && maps.Equal(safe(a), safe(b))
 }
 
 // framed is a record's frame by the library's sum and numbers.
@@ -84,7 +69,7 @@ func parted(file string) ([]string, string) {
 // logFiles are the names of a folder's checkpoints or segments, by their numbers.
 func logFiles(d *disk.Disk, dir, kind string) map[int]string {
 	out := map[int]string{}
-	for name := range peek(d) {
+	for name := range filesOf(d) {
 		digits, ok := strings.CutPrefix(name, dir+"/"+kind)
 		if !ok || len(digits) != 8 || strings.Trim(digits, "0123456789") != "" {
 			continue
@@ -105,7 +90,7 @@ func rising[V any](m map[int]V) []int {
 
 // opening is what Open has to write, to tell, and to take as its open segment.
 func opening(d *disk.Disk, dir string) (ops []op, recs []string, open int) {
-	files, checkpoints, segments := peek(d), logFiles(d, dir, "c"), logFiles(d, dir, "s")
+	files, checkpoints, segments := filesOf(d), logFiles(d, dir, "c"), logFiles(d, dir, "s")
 	if _, ok := files[dir+"/new"]; ok {
 		ops = append(ops, op{"delete", dir + "/new", ""})
 	}
@@ -185,8 +170,8 @@ func (x *twin) same(what string, got, want api.Errno) {
 	if got != want {
 		x.t.Fatalf("%s: %d, not %d", what, got, want)
 	}
-	if !alike(x.d, x.byOps) {
-		x.t.Fatalf("%s: writes %d, not %d; files %q, safe %q; not %q, safe %q", what, x.d.Writes(), x.byOps.Writes(), peek(x.d), safe(x.d), peek(x.byOps), safe(x.byOps))
+	if !peek.Alike(x.d, x.byOps) {
+		x.t.Fatalf("%s: writes %d, not %d; files %q, safe %q; not %q, safe %q", what, x.d.Writes(), x.byOps.Writes(), filesOf(x.d), peek.Safe(x.d), filesOf(x.byOps), peek.Safe(x.byOps))
 	}
 	if !x.shut && x.w.Segments() != len(logFiles(x.d, x.dir, "s")) {
 		x.t.Fatalf("P7.4: %s: %d segments of %q", what, x.w.Segments(), x.d.List(""))
@@ -226,7 +211,7 @@ func (x *twin) Append(rec string) api.Errno {
 	want := api.ErrWalLong
 	if len(rec) <= 65536 {
 		want = x.doOps(nil)
-		if want == api.OK && len(peek(x.byOps)[x.segment(x.open)]) >= 4096 {
+		if want == api.OK && len(filesOf(x.byOps)[x.segment(x.open)]) >= 4096 {
 			if want = do(x.byOps, op{"sync", x.segment(x.open), ""}); want == api.OK {
 				x.open++
 			}
@@ -243,7 +228,7 @@ func (x *twin) Append(rec string) api.Errno {
 func (x *twin) Sync() api.Errno {
 	x.t.Helper()
 	want := api.OK
-	if _, ok := peek(x.byOps)[x.segment(x.open)]; ok {
+	if _, ok := filesOf(x.byOps)[x.segment(x.open)]; ok {
 		want = x.doOps([]op{{"sync", x.segment(x.open), ""}})
 	}
 	e := x.w.Sync()

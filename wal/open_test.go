@@ -131,14 +131,14 @@ func TestNamesThatAreNotTheLogs(t *testing.T) {
 		files = append(files, name, a[:len(a)-1])
 	}
 	d := lay(t, files...)
-	before := peek(d)
+	before := filesOf(d)
 	w := opened(t, d, "x")
 	if w.Segments() != 0 {
 		t.Errorf("P7.4: %d", w.Segments())
 	}
 	must(t, w.Append([]byte("b")), w.Cut(bytesOf("c")), w.Append([]byte("d")), w.Sync())
 	opened(t, d, "x", "c", "d")
-	after := peek(d)
+	after := filesOf(d)
 	for name, file := range before {
 		if after[name] != file {
 			t.Errorf("P7.1: %q: %q, not %q", name, after[name], file)
@@ -242,13 +242,13 @@ func tryEveryCut(t *testing.T, laid *disk.Disk) {
 		for range 2 {
 			must(t, x.Open())
 			if !slices.Equal(x.told, recs) {
-				t.Fatalf("P7.5: %q, the power gone at write %d: %q; want %q", peek(laid), k, x.told, recs)
+				t.Fatalf("P7.5: %q, the power gone at write %d: %q; want %q", filesOf(laid), k, x.told, recs)
 			}
 		}
 		writes := x.d.Writes()
 		must(t, x.Open())
 		if x.d.Writes() != writes {
-			t.Fatalf("P7.1: what was mended is mended anew: %q", peek(laid))
+			t.Fatalf("P7.1: what was mended is mended anew: %q", filesOf(laid))
 		}
 		must(t, x.Append("z"), x.Sync(), x.Open())
 		if !slices.Equal(x.told, append(slices.Clone(recs), "z")) {
@@ -280,8 +280,8 @@ func TestTornAnywhere(t *testing.T) {
 			want = append(want, "z")
 		}
 		opened(t, d, "x", want...)
-		if len(bytes) > ends[n] && n > 0 && peek(d)["x/s00000004"] != file[:ends[n]] {
-			t.Errorf("P7.1: %q", peek(d))
+		if len(bytes) > ends[n] && n > 0 && filesOf(d)["x/s00000004"] != file[:ends[n]] {
+			t.Errorf("P7.1: %q", filesOf(d))
 		}
 	}
 	for at := range len(file) + 1 {
@@ -340,7 +340,7 @@ func TestMendOfWhatIsLoose(t *testing.T) {
 
 func TestWhatOpenTellsIsNew(t *testing.T) {
 	d := lay(t, "x/c00000001", framed("aaaa")+framed("bbbb"), "x/s00000002", framed("cccc")+framed("dddd"))
-	before := peek(d)
+	before := filesOf(d)
 	_, recs, _ := Open(d, "x")
 	for i := range recs {
 		for k := range recs[i] {
@@ -352,7 +352,7 @@ func TestWhatOpenTellsIsNew(t *testing.T) {
 		t.Errorf("R3: %q", recs)
 	}
 	opened(t, d, "x", "aaaa", "bbbb", "cccc", "dddd")
-	if after := peek(d); len(after) != len(before) || after["x/c00000001"] != before["x/c00000001"] {
+	if after := filesOf(d); len(after) != len(before) || after["x/c00000001"] != before["x/c00000001"] {
 		t.Errorf("R3: %q", after)
 	}
 }
