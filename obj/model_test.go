@@ -150,40 +150,40 @@ func (m model) open() api.Errno {
 
 // twin is a store and the model, each over one of two disks that are just alike; each call is done on both.
 type twin struct {
-	t    *testing.T
-	d    *disk.Disk
-	s    *Store
-	m    model
-	said []string
+	*peek.Twins
+	t *testing.T
+	s *Store
+	m model
+}
+
+// shutTwin has a disk and a clone of it for the model, nothing opened yet.
+func shutTwin(t *testing.T, d *disk.Disk) *twin {
+	x := &twin{t: t, Twins: peek.NewTwins(d)}
+	x.m.d = x.Hand
+	return x
 }
 
 // newTwin has a store on the disk and the model on a clone of it.
 func newTwin(t *testing.T, d *disk.Disk) *twin {
 	t.Helper()
-	x := &twin{t: t, d: d, m: model{d.Clone()}}
-	x.open()
+	x := shutTwin(t, d)
+	if e := x.open(); e != api.OK {
+		t.Fatalf("P11.1: %d", e)
+	}
 	return x
 }
 
 // same: did the two answer alike, and do their disks stand alike?
 func (x *twin) same(promise, call string, got, want any) {
 	x.t.Helper()
-	x.said = append(x.said, call)
-	if a, b := fmt.Sprint(got), fmt.Sprint(want); a != b {
-		x.t.Fatalf("%s: %s: %.200s; want %.200s", promise, last(x.said), a, b)
+	if how := x.Differ(call, fmt.Sprint(got), fmt.Sprint(want)); how != "" {
+		x.t.Fatalf("%s: %s", promise, how)
 	}
-	if !peek.Alike(x.d, x.m.d) {
-		x.t.Fatalf("%s: %s: the disk: %.300q, on %v, %d writes; want %.300q, on %v, %d writes", promise, last(x.said), peek.Files(x.d), x.d.Up(), x.d.Writes(), peek.Files(x.m.d), x.m.d.Up(), x.m.d.Writes())
-	}
-}
-
-func last(said []string) string {
-	return strings.Join(said[max(0, len(said)-12):], ", ")
 }
 
 func (x *twin) open() api.Errno {
 	x.t.Helper()
-	s, e := Open(x.d)
+	s, e := Open(x.Own)
 	if (s == nil) != (e != api.OK) {
 		x.t.Fatalf("P11.1: a store %v beside %d", s != nil, e)
 	}
@@ -250,7 +250,6 @@ func (x *twin) ask(keys ...string) {
 // both does to the two disks what is no call of the store.
 func (x *twin) both(call string, do func(d *disk.Disk)) {
 	x.t.Helper()
-	do(x.d)
-	do(x.m.d)
+	x.Both(do)
 	x.same("P11.4", call, nil, nil)
 }

@@ -414,7 +414,7 @@ func TestOpenDeletesDrafts(t *testing.T) {
 		d.Append("t/z", []byte("loose"))
 		d.Append("t/0", []byte("loose"))
 		d.Arm(writes, 2)
-		x := &twin{t: t, d: d, m: model{d.Clone()}}
+		x := shutTwin(t, d)
 		if e := x.open(); (e == api.OK) != (writes >= 8) {
 			t.Errorf("P11.1: %d writes: %d", writes, e)
 		}

@@ -9,6 +9,7 @@ import (
 
 	"tidewrack/api"
 	"tidewrack/disk"
+	"tidewrack/peek"
 )
 
 // TestPowerGoesInAPut: at each of its writes, with each few survivors, what stands there then is the old object or the new one; and the new one, if it was answered.
@@ -153,16 +154,10 @@ func smallSteps() []step {
 // TestAllShortScripts: P11.1 to P11.4, every script of four of the small steps, against the chapter's words.
 func TestAllShortScripts(t *testing.T) {
 	steps := smallSteps()
-	depth := 4
-	scripts := 1
-	for range depth {
-		scripts *= len(steps)
-	}
-	for n := range scripts {
+	for script := range peek.Scripts(len(steps), 4) {
 		x := newTwin(t, disk.New())
-		for range depth {
-			steps[n%len(steps)](x)
-			n /= len(steps)
+		for _, n := range script {
+			steps[n](x)
 		}
 		x.both("on", (*disk.Disk).On)
 		x.ask("a", "b")

@@ -1,0 +1,47 @@
+package kv
+
+import (
+	"slices"
+
+	"tidewrack/api"
+	"tidewrack/codec"
+)
+
+const maxKey = 64
+
+// register: one that was never set has the version 0.
+type register struct {
+	version uint64
+	data    string
+}
+
+func isKey(s string) bool {
+	return len(s) >= 1 && len(s) <= maxKey
+}
+
+// next is the register behind a change. Behind the last number there is none: versions begin anew then, at 1, as 0 is that of a register that was never set.
+func (r register) next(data []byte) register {
+	return register{version: max(r.version+1, 1), data: string(data)}
+}
+
+// lay has the record that says that the key's register is this one.
+func (r register) lay(key string) []byte {
+	return slices.Concat(codec.PutText(nil, key), codec.PutUint(nil, r.version), codec.PutText(nil, r.data))
+}
+
+// read has what a record says, if it says something.
+func read(rec []byte) (string, register, bool) {
+	key, at, e := codec.Text(rec, 0)
+	if e != api.OK || !isKey(key) {
+		return "", register{}, false
+	}
+	version, at, e := codec.Uint(rec, at)
+	if e != api.OK || version == 0 {
+		return "", register{}, false
+	}
+	data, at, e := codec.Text(rec, at)
+	if e != api.OK || at != len(rec) {
+		return "", register{}, false
+	}
+	return key, register{version: version, data: data}, true
+}
