@@ -3,6 +3,7 @@ package block
 import (
 	"tidewrack/api"
 	"tidewrack/label"
+	"tidewrack/order"
 	"tidewrack/points"
 )
 
@@ -34,13 +35,5 @@ func isCount(n int) bool {
 }
 
 func sourcesMayBe(ids []uint64) bool {
-	if len(ids) > api.MaxSource {
-		return false
-	}
-	for i := range ids {
-		if i > 0 && ids[i-1] >= ids[i] {
-			return false
-		}
-	}
-	return true
+	return len(ids) <= api.MaxSource && order.Rising(ids)
 }

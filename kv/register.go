@@ -3,8 +3,8 @@ package kv
 import (
 	"slices"
 
-	"tidewrack/api"
 	"tidewrack/codec"
+	"tidewrack/reader"
 )
 
 const maxKey = 64
@@ -31,16 +31,9 @@ func (r register) lay(key string) []byte {
 
 // read has what a record says, if it says something.
 func read(rec []byte) (string, register, bool) {
-	key, at, e := codec.Text(rec, 0)
-	if e != api.OK || !isKey(key) {
-		return "", register{}, false
-	}
-	version, at, e := codec.Uint(rec, at)
-	if e != api.OK || version == 0 {
-		return "", register{}, false
-	}
-	data, at, e := codec.Text(rec, at)
-	if e != api.OK || at != len(rec) {
+	from := reader.Of(rec)
+	key, version, data := from.Text(), from.Number(), from.Text()
+	if !from.Whole() || !isKey(key) || version == 0 {
 		return "", register{}, false
 	}
 	return key, register{version: version, data: data}, true

@@ -5,11 +5,7 @@ import (
 
 	"tidewrack/api"
 	"tidewrack/codec"
-)
-
-const (
-	hashStart = 2166136261
-	hashPrime = 16777619
+	"tidewrack/fnv"
 )
 
 // Encode: P3.3. Each text is laid onto none: codec would copy all that stands ahead of it.
@@ -67,11 +63,7 @@ func readOne(b []byte, at int) (api.Label, int, api.Errno) {
 
 // Hash: P3.3.
 func Hash(ls []api.Label) uint32 {
-	h := uint32(hashStart)
-	for _, x := range Encode(ls) {
-		h = (h ^ uint32(x)) * hashPrime
-	}
-	return h
+	return fnv.Sum(Encode(ls))
 }
 
 // Text: P3.3.
