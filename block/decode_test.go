@@ -57,7 +57,7 @@ func TestDamagedBlocks(t *testing.T) {
 			wantNone(t, x.what, x.b)
 		}
 	}
-	meta, _ := EncodeMeta(metas()[1])
+	meta, _ := EncodeMeta(someMetas()[1])
 	wantNone(t, "a meta", meta)
 }
 

@@ -20,8 +20,8 @@ func rising(v uint64, n int) []uint64 {
 	return out
 }
 
-// metas may be.
-func metas() []api.Meta {
+// someMetas may be.
+func someMetas() []api.Meta {
 	const most = 1<<31 - 1
 	return []api.Meta{
 		{}, {ID: 7, Min: 5, Max: 9, Level: 1, Series: 1, Points: 2},
@@ -127,7 +127,7 @@ func TestMetaBytes(t *testing.T) {
 }
 
 func TestMetasThereAndBack(t *testing.T) {
-	for _, m := range metas() {
+	for _, m := range someMetas() {
 		b, e := EncodeMeta(m)
 		if e != api.OK || !bytes.Equal(b, closed(metaBody(m))) {
 			t.Errorf("P9.3: EncodeMeta(%v): %x, %d", m, b, e)
@@ -168,7 +168,7 @@ func TestWrongMetas(t *testing.T) {
 }
 
 func TestDamagedMetas(t *testing.T) {
-	for _, m := range metas() {
+	for _, m := range someMetas() {
 		b, _ := EncodeMeta(m)
 		for _, x := range damaged(b) {
 			wantNoMeta(t, x.what, x.b)
@@ -179,7 +179,7 @@ func TestDamagedMetas(t *testing.T) {
 }
 
 func TestChangedMetas(t *testing.T) {
-	for _, m := range metas() {
+	for _, m := range someMetas() {
 		some := 0
 		for i, body := range changed(metaBody(m)) {
 			if len(body) > 100 && i%7 > 0 {
@@ -233,7 +233,7 @@ func TestOtherFormsOfMetas(t *testing.T) {
 
 // TestMetaOfSeries: level and sources at their edges; what is wrong with the series goes ahead.
 func TestMetaOfSeries(t *testing.T) {
-	for _, x := range metas() {
+	for _, x := range someMetas() {
 		m, e := Meta(few(), x.ID, x.Level, x.Sources)
 		want := api.Meta{ID: x.ID, Min: -5, Max: 120, Level: x.Level, Sources: x.Sources, Series: 3, Points: 6}
 		if e != api.OK || fmt.Sprint(m) != fmt.Sprint(want) {

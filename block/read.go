@@ -7,6 +7,7 @@ import (
 	"tidewrack/api"
 	"tidewrack/chunk"
 	"tidewrack/codec"
+	"tidewrack/metas"
 	"tidewrack/seal"
 )
 
@@ -123,9 +124,9 @@ func (r *reader) points() []api.Point {
 func (r *reader) meta() api.Meta {
 	var m api.Meta
 	m.ID = r.number()
-	m.Level = r.below(countBound)
-	m.Series = r.below(countBound)
-	m.Points = r.below(countBound)
+	m.Level = r.below(metas.CountBound)
+	m.Series = r.below(metas.CountBound)
+	m.Points = r.below(metas.CountBound)
 	m.Min = r.signed()
 	m.Max = r.signed()
 	m.Sources = make([]uint64, r.below(api.MaxSource+1))
@@ -133,6 +134,6 @@ func (r *reader) meta() api.Meta {
 		m.Sources[i] = r.number()
 	}
 	r.end()
-	must(metaMayBe(m))
+	must(metas.MayBe(m))
 	return m
 }

@@ -33,6 +33,11 @@ func (r *Reader) UpTo(most uint64) uint64 {
 	return v
 }
 
+// Signed reads a signed number.
+func (r *Reader) Signed() int64 {
+	return next(r, codec.Int)
+}
+
 // Text reads a text.
 func (r *Reader) Text() string {
 	return next(r, codec.Text)

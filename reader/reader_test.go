@@ -40,6 +40,7 @@ func TestNothing(t *testing.T) {
 		}
 		for what, ask := range map[string]func(*Reader) bool{
 			"Number": func(r *Reader) bool { return r.Number() == 0 },
+			"Signed": func(r *Reader) bool { return r.Signed() == 0 },
 			"UpTo":   func(r *Reader) bool { return r.UpTo(5) == 0 },
 			"Text":   func(r *Reader) bool { return r.Text() == "" },
 		} {
@@ -65,6 +66,20 @@ func TestUpTo(t *testing.T) {
 	}
 }
 
+func TestSigned(t *testing.T) {
+	for _, v := range []int64{0, -1, 1, -64, 63, -65, 64, math.MinInt64, math.MaxInt64} {
+		r := Of(slices.Concat(binary.AppendVarint(nil, v), laid(5)))
+		if got, behind := r.Signed(), r.Number(); got != v || behind != 5 || !r.Whole() {
+			t.Errorf("%d: %d, %d, %v", v, got, behind, r.Whole())
+		}
+	}
+	for _, wrong := range [][]byte{{0x80, 0}, {0x80}, {0xff, 0xff, 0xff, 0xff, 0xff, 0xff, 0xff, 0xff, 0xff, 2}} {
+		if r := Of(wrong); r.Signed() != 0 || r.Whole() {
+			t.Errorf("%x: %v", wrong, r.Whole())
+		}
+	}
+}
+
 // TestWrongStaysWrong: behind a piece that is wrong all is nothing, though it could be read.
 func TestWrongStaysWrong(t *testing.T) {
 	for what, wrong := range map[string][]byte{"a needless byte": {0x80, 0}, "above the most": {9}} {
@@ -72,8 +87,8 @@ func TestWrongStaysWrong(t *testing.T) {
 		if v := r.UpTo(8); v != 0 {
 			t.Errorf("%s: %d", what, v)
 		}
-		if a, c, s := r.Number(), r.UpTo(8), r.Text(); a != 0 || c != 0 || s != "" || r.Whole() {
-			t.Errorf("behind %s: %d, %d, %q, %v", what, a, c, s, r.Whole())
+		if a, c, i, s := r.Number(), r.UpTo(8), r.Signed(), r.Text(); a != 0 || c != 0 || i != 0 || s != "" || r.Whole() {
+			t.Errorf("behind %s: %d, %d, %d, %q, %v", what, a, c, i, s, r.Whole())
 		}
 	}
 	r := Of([]byte{5, 'a'})
