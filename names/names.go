@@ -1,15 +1,25 @@
-// Package names asks texts whether they are names: what the layers share that keep files.
+// Package names asks texts whether they are names: what the layers share that keep files, or hear of tenants.
 package names
 
 import "tidewrack/api"
 
 // OfFile asks whether a disk's file may have that name.
 func OfFile(s string) bool {
-	if len(s) < 1 || len(s) > api.MaxName {
+	return isName(s, api.MaxName, isFileByte)
+}
+
+// OfTenant asks whether a tenant may have that name.
+func OfTenant(s string) bool {
+	return isName(s, api.MaxTenant, isTenantByte)
+}
+
+// isName asks whether a text has 1 to most bytes, all of them such as may be.
+func isName(s string, most int, mayBe func(byte) bool) bool {
+	if len(s) < 1 || len(s) > most {
 		return false
 	}
 	for i := range len(s) {
-		if !isFileByte(s[i]) {
+		if !mayBe(s[i]) {
 			return false
 		}
 	}
@@ -17,5 +27,9 @@ func OfFile(s string) bool {
 }
 
 func isFileByte(c byte) bool {
-	return 'a' <= c && c <= 'z' || '0' <= c && c <= '9' || c == '/' || c == '.' || c == '-'
+	return isTenantByte(c) || c == '/' || c == '.'
+}
+
+func isTenantByte(c byte) bool {
+	return 'a' <= c && c <= 'z' || '0' <= c && c <= '9' || c == '-'
 }

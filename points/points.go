@@ -17,9 +17,14 @@ func Rising(ps []api.Point) bool {
 	return true
 }
 
+// InTime asks whether a point may be at t.
+func InTime(t int64) bool {
+	return t >= -api.MaxTime && t <= api.MaxTime
+}
+
 // InOrder asks whether T rises, each from -MaxTime to MaxTime.
 func InOrder(ps []api.Point) bool {
-	return len(ps) == 0 || ps[0].T >= -api.MaxTime && ps[len(ps)-1].T <= api.MaxTime && Rising(ps)
+	return len(ps) == 0 || InTime(ps[0].T) && InTime(ps[len(ps)-1].T) && Rising(ps)
 }
 
 // FirstFrom is the place of the first point whose T is not below t. (Of a list whose T rises, as Between.)

@@ -16,6 +16,20 @@ func at(times ...int64) []api.Point {
 	return out
 }
 
+func TestInTime(t *testing.T) {
+	for _, x := range []struct {
+		t    int64
+		want bool
+	}{
+		{0, true}, {1, true}, {-1, true}, {1 << 40, true}, {-1 << 40, true}, {1<<40 - 1, true}, {1 - 1<<40, true},
+		{1<<40 + 1, false}, {-1<<40 - 1, false}, {math.MinInt64, false}, {math.MaxInt64, false},
+	} {
+		if got := InTime(x.t); got != x.want {
+			t.Errorf("InTime(%d): %v", x.t, got)
+		}
+	}
+}
+
 func TestInOrder(t *testing.T) {
 	for _, x := range []struct {
 		ps   []api.Point
