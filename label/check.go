@@ -1,6 +1,9 @@
 package label
 
-import "tidewrack/api"
+import (
+	"tidewrack/api"
+	"tidewrack/letters"
+)
 
 // Bounds of each byte of a rune behind its first one, where that does not narrow them.
 const (
@@ -22,23 +25,15 @@ func fault(l api.Label, ahead string) api.Errno {
 }
 
 func isName(s string) bool {
-	if len(s) < 1 || len(s) > api.MaxName || isDigit(s[0]) {
+	if len(s) < 1 || len(s) > api.MaxName || letters.IsDigit(s[0]) {
 		return false
 	}
 	for i := range len(s) {
-		if !isLetter(s[i]) && !isDigit(s[i]) {
+		if !letters.IsLetter(s[i]) && !letters.IsDigit(s[i]) {
 			return false
 		}
 	}
 	return true
-}
-
-func isDigit(x byte) bool {
-	return x >= '0' && x <= '9'
-}
-
-func isLetter(x byte) bool {
-	return x >= 'a' && x <= 'z' || x >= 'A' && x <= 'Z' || x == '_'
 }
 
 func isValue(s string) bool {

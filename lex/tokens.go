@@ -1,0 +1,141 @@
+package lex
+
+import (
+	"strings"
+
+	"tidewrack/api"
+	"tidewrack/letters"
+)
+
+const (
+	maxDigits = 15
+	maxSpan   = 1<<31 - 1
+)
+
+// number reads the number or the span that a text begins with, and tells how many bytes it has: none, if the run there is neither.
+func number(s string) (api.Token, int) {
+	var (
+		length int
+		digits int
+		count  int64
+		span   int64
+	)
+whole:
+	// However many digits there are, count stays small, and too great for a span.
+	count = min(count*10+int64(s[length]-'0'), maxSpan+1)
+	length++
+	if letters.IsDigit(byteAt(s, length)) {
+		goto whole
+	}
+	if s[0] == '0' && length > 1 {
+		goto wrong
+	}
+	digits = length
+	switch c := byteAt(s, length); {
+	case c == '.':
+		goto point
+	case letters.IsLetter(c):
+		goto unit
+	}
+	goto end
+point:
+	length++
+	if !letters.IsDigit(byteAt(s, length)) {
+		goto wrong
+	}
+fraction:
+	digits++
+	length++
+	if letters.IsDigit(byteAt(s, length)) {
+		goto fraction
+	}
+	goto end
+unit:
+	span = count * seconds(s[length])
+	length++
+	if span < 1 || span > maxSpan || isRunByte(byteAt(s, length)) {
+		goto wrong
+	}
+	return api.Token{Kind: api.TokSpan, Text: s[:length], Span: span}, length
+end:
+	if digits > maxDigits || isRunByte(byteAt(s, length)) {
+		goto wrong
+	}
+	return api.Token{Kind: api.TokNumber, Text: s[:length]}, length
+wrong:
+	return api.Token{}, 0
+}
+
+// isRunByte asks for the bytes over which a run goes that begins with a digit.
+func isRunByte(c byte) bool {
+	return letters.IsLetter(c) || letters.IsDigit(c) || c == '.'
+}
+
+// seconds is how long a unit is: none, if the letter is no unit's.
+func seconds(unit byte) int64 {
+	switch unit {
+	case 's':
+		return 1
+	case 'm':
+		return 60
+	case 'h':
+		return 60 * 60
+	case 'd':
+		return 24 * 60 * 60
+	}
+	return 0
+}
+
+func word(s string) (api.Token, int) {
+	length := 1
+more:
+	if isWordByte(byteAt(s, length)) {
+		length++
+		goto more
+	}
+	return api.Token{Kind: api.TokWord, Text: s[:length]}, length
+}
+
+// text reads the text that begins with a quote, and tells how many bytes it has: none, if it is none.
+func text(s string) (api.Token, int) {
+	var says []byte
+	length := 1
+plain:
+	switch c := byteAt(s, length); {
+	case c == '"':
+		goto end
+	case c == '\\':
+		goto escape
+	case c < ' ':
+		goto wrong
+	}
+	says = append(says, s[length])
+	length++
+	goto plain
+escape:
+	length++
+	switch c := byteAt(s, length); c {
+	case '"', '\\':
+		says = append(says, c)
+	case 'n':
+		says = append(says, '\n')
+	default:
+		goto wrong
+	}
+	length++
+	goto plain
+end:
+	return api.Token{Kind: api.TokText, Text: string(says)}, length + 1
+wrong:
+	return api.Token{}, 0
+}
+
+// sign reads the longest sign that a text begins with: each of two bytes is asked for ahead of the one that it begins with.
+func sign(s string) (api.Token, int) {
+	for _, x := range [...]string{"==", "!=", "<=", ">=", "=~", "!~", "<", ">", "=", "+", "-", "*", "/", "(", ")", "{", "}", "[", "]", ","} {
+		if strings.HasPrefix(s, x) {
+			return api.Token{Kind: api.TokSign, Text: x}, len(x)
+		}
+	}
+	return api.Token{}, 0
+}
