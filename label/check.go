@@ -2,7 +2,7 @@ package label
 
 import (
 	"tidewrack/api"
-	"tidewrack/letters"
+	"tidewrack/names"
 )
 
 // Bounds of each byte of a rune behind its first one, where that does not narrow them.
@@ -14,7 +14,7 @@ const (
 // fault is the first thing that is wrong with a label behind one of the Name ahead.
 func fault(l api.Label, ahead string) api.Errno {
 	switch {
-	case !isName(l.Name):
+	case !names.OfLabel(l.Name):
 		return api.ErrLabelName
 	case !isValue(l.Value):
 		return api.ErrLabelText
@@ -22,18 +22,6 @@ func fault(l api.Label, ahead string) api.Errno {
 		return api.ErrLabelSort
 	}
 	return api.OK
-}
-
-func isName(s string) bool {
-	if len(s) < 1 || len(s) > api.MaxName || letters.IsDigit(s[0]) {
-		return false
-	}
-	for i := range len(s) {
-		if !letters.IsLetter(s[i]) && !letters.IsDigit(s[i]) {
-			return false
-		}
-	}
-	return true
 }
 
 func isValue(s string) bool {

@@ -1,7 +1,10 @@
-// Package names asks texts whether they are names: what the layers share that keep files, or hear of tenants.
+// Package names asks texts whether they are names: what the layers share that keep files, hear of tenants, or read of labels.
 package names
 
-import "tidewrack/api"
+import (
+	"tidewrack/api"
+	"tidewrack/letters"
+)
 
 // OfFile asks whether a disk's file may have that name.
 func OfFile(s string) bool {
@@ -11,6 +14,11 @@ func OfFile(s string) bool {
 // OfTenant asks whether a tenant may have that name.
 func OfTenant(s string) bool {
 	return isName(s, api.MaxTenant, isTenantByte)
+}
+
+// OfLabel asks whether a label may have that Name.
+func OfLabel(s string) bool {
+	return isName(s, api.MaxName, isLabelByte) && !letters.IsDigit(s[0])
 }
 
 // isName asks whether a text has 1 to most bytes, all of them such as may be.
@@ -32,4 +40,8 @@ func isFileByte(c byte) bool {
 
 func isTenantByte(c byte) bool {
 	return 'a' <= c && c <= 'z' || '0' <= c && c <= '9' || c == '-'
+}
+
+func isLabelByte(c byte) bool {
+	return letters.IsLetter(c) || letters.IsDigit(c)
 }
