@@ -3,6 +3,7 @@ package parse
 import (
 	"tidewrack/api"
 	"tidewrack/match"
+	"tidewrack/ops"
 )
 
 // The levels of the grammar. Each of the upper ones hands on the next one below it, of which its parts are.
@@ -34,22 +35,18 @@ func (r *reader) term() {
 }
 
 // row reads parts with some of those operations between them, of which each takes all that is to its left.
-func (r *reader) row(part func(), ops ...int) {
+func (r *reader) row(part func(), mayBe ...int) {
 	part()
 	for {
-		n := api.Node{Kind: api.NodeBin, Op: r.takesOne(operations(), ops...), Parts: 2}
+		n := api.Node{Kind: api.NodeBin, Op: r.takesOne(operations(), mayBe...), Parts: 2}
 		if n.Op == 0 {
 			return
 		}
-		n.Bool = isComparison(n.Op) && r.takes("bool")
+		n.Bool = ops.IsComparison(n.Op) && r.takes("bool")
 		n.Group, n.Names = r.group(api.GroupOn, api.GroupIgnore)
 		part()
 		r.tell(n)
 	}
-}
-
-func isComparison(op int) bool {
-	return api.OpEq <= op && op <= api.OpGe
 }
 
 func (r *reader) unary() {
