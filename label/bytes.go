@@ -6,6 +6,7 @@ import (
 	"tidewrack/api"
 	"tidewrack/codec"
 	"tidewrack/fnv"
+	"tidewrack/quote"
 )
 
 // Encode: P3.3. Each text is laid onto none: codec would copy all that stands ahead of it.
@@ -76,24 +77,8 @@ func Text(ls []api.Label) string {
 		}
 		out.WriteString(l.Name)
 		out.WriteByte('=')
-		writeQuoted(&out, l.Value)
+		out.WriteString(quote.Text(l.Value))
 	}
 	out.WriteByte('}')
 	return out.String()
-}
-
-func writeQuoted(out *strings.Builder, value string) {
-	out.WriteByte('"')
-	for i := range len(value) {
-		switch x := value[i]; x {
-		case '\\', '"':
-			out.WriteByte('\\')
-			out.WriteByte(x)
-		case '\n':
-			out.WriteString(`\n`)
-		default:
-			out.WriteByte(x)
-		}
-	}
-	out.WriteByte('"')
 }

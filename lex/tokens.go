@@ -5,6 +5,7 @@ import (
 
 	"tidewrack/api"
 	"tidewrack/letters"
+	"tidewrack/words"
 )
 
 const (
@@ -51,7 +52,7 @@ fraction:
 	}
 	goto end
 unit:
-	span = count * seconds(s[length])
+	span = count * words.Seconds(s[length])
 	length++
 	if span < 1 || span > maxSpan || isRunByte(byteAt(s, length)) {
 		goto wrong
@@ -69,21 +70,6 @@ wrong:
 // isRunByte asks for the bytes over which a run goes that begins with a digit.
 func isRunByte(c byte) bool {
 	return letters.IsLetter(c) || letters.IsDigit(c) || c == '.'
-}
-
-// seconds is how long a unit is: none, if the letter is no unit's.
-func seconds(unit byte) int64 {
-	switch unit {
-	case 's':
-		return 1
-	case 'm':
-		return 60
-	case 'h':
-		return 60 * 60
-	case 'd':
-		return 24 * 60 * 60
-	}
-	return 0
 }
 
 func word(s string) (api.Token, int) {

@@ -4,6 +4,7 @@ import (
 	"tidewrack/api"
 	"tidewrack/match"
 	"tidewrack/ops"
+	"tidewrack/words"
 )
 
 // The levels of the grammar. Each of the upper ones hands on the next one below it, of which its parts are.
@@ -38,7 +39,7 @@ func (r *reader) term() {
 func (r *reader) row(part func(), mayBe ...int) {
 	part()
 	for {
-		n := api.Node{Kind: api.NodeBin, Op: r.takesOne(operations(), mayBe...), Parts: 2}
+		n := api.Node{Kind: api.NodeBin, Op: r.takesOne(words.Operations(), mayBe...), Parts: 2}
 		if n.Op == 0 {
 			return
 		}
@@ -60,7 +61,7 @@ func (r *reader) unary() {
 
 // group reads one of those groups and its names, if there is one.
 func (r *reader) group(mayBe ...int) (int, []string) {
-	group := r.takesOne(groups(), mayBe...)
+	group := r.takesOne(words.Groups(), mayBe...)
 	if group == api.GroupNone {
 		return api.GroupNone, nil
 	}
@@ -76,9 +77,9 @@ func (r *reader) one() {
 		r.tell(api.Node{Kind: api.NodeNumber, Text: t.Text})
 	case r.is("("):
 		r.brackets()
-	case numberIn(functions(), t) != 0:
+	case numberIn(words.Functions(), t) != 0:
 		r.call()
-	case numberIn(aggregations(), t) != 0:
+	case numberIn(words.Aggregations(), t) != 0:
 		r.aggregation()
 	default:
 		r.selection()
@@ -91,14 +92,14 @@ func (r *reader) brackets() {
 }
 
 func (r *reader) call() {
-	n := api.Node{Kind: api.NodeCall, Op: numberIn(functions(), r.here()), Parts: 1}
+	n := api.Node{Kind: api.NodeCall, Op: numberIn(words.Functions(), r.here()), Parts: 1}
 	r.at++
 	r.brackets()
 	r.tell(n)
 }
 
 func (r *reader) aggregation() {
-	n := api.Node{Kind: api.NodeAgg, Op: numberIn(aggregations(), r.here()), Parts: 1}
+	n := api.Node{Kind: api.NodeAgg, Op: numberIn(words.Aggregations(), r.here()), Parts: 1}
 	r.at++
 	n.Group, n.Names = r.group(api.GroupBy, api.GroupWithout)
 	r.brackets()
@@ -134,7 +135,7 @@ func (r *reader) matchers() []api.Matcher {
 // question reads a matcher up to the text that it asks for.
 func (r *reader) question() api.Matcher {
 	m := api.Matcher{Name: r.labelName()}
-	m.Kind = numberIn(matchKinds(), r.here())
+	m.Kind = numberIn(words.MatchKinds(), r.here())
 	r.must(m.Kind != 0)
 	r.at++
 	r.must(r.here().Kind == api.TokText)
