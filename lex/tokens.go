@@ -1,70 +1,46 @@
 package lex
 
 import (
+	"strconv"
 	"strings"
 
 	"tidewrack/api"
 	"tidewrack/letters"
+	"tidewrack/numeral"
 	"tidewrack/words"
 )
 
-const (
-	maxDigits = 15
-	maxSpan   = 1<<31 - 1
-)
+const maxSpan = 1<<31 - 1
 
 // number reads the number or the span that a text begins with, and tells how many bytes it has: none, if the run there is neither.
 func number(s string) (api.Token, int) {
-	var (
-		length int
-		digits int
-		count  int64
-		span   int64
-	)
-whole:
-	// However many digits there are, count stays small, and too great for a span.
-	count = min(count*10+int64(s[length]-'0'), maxSpan+1)
-	length++
-	if letters.IsDigit(byteAt(s, length)) {
-		goto whole
-	}
-	if s[0] == '0' && length > 1 {
-		goto wrong
-	}
-	digits = length
+	var span int64
+	length := numeral.Length(s)
 	switch c := byteAt(s, length); {
-	case c == '.':
-		goto point
 	case letters.IsLetter(c):
 		goto unit
-	}
-	goto end
-point:
-	length++
-	if !letters.IsDigit(byteAt(s, length)) {
+	case isRunByte(c):
 		goto wrong
 	}
-fraction:
-	digits++
-	length++
-	if letters.IsDigit(byteAt(s, length)) {
-		goto fraction
-	}
-	goto end
+	return api.Token{Kind: api.TokNumber, Text: s[:length]}, length
 unit:
-	span = count * words.Seconds(s[length])
+	span = count(s[:length]) * words.Seconds(s[length])
 	length++
 	if span < 1 || span > maxSpan || isRunByte(byteAt(s, length)) {
 		goto wrong
 	}
 	return api.Token{Kind: api.TokSpan, Text: s[:length], Span: span}, length
-end:
-	if digits > maxDigits || isRunByte(byteAt(s, length)) {
-		goto wrong
-	}
-	return api.Token{Kind: api.TokNumber, Text: s[:length]}, length
 wrong:
 	return api.Token{}, 0
+}
+
+// count is how many of its unit a span has: 0, if they are too many, or not whole.
+func count(digits string) int64 {
+	n, err := strconv.ParseInt(digits, 10, 32)
+	if err != nil {
+		return 0
+	}
+	return n
 }
 
 // isRunByte asks for the bytes over which a run goes that begins with a digit.

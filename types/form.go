@@ -5,8 +5,8 @@ import (
 
 	"tidewrack/api"
 	"tidewrack/names"
+	"tidewrack/numeral"
 	"tidewrack/ops"
-	"tidewrack/parse"
 )
 
 // far is how many seconds a select may ask for, or go back.
@@ -71,15 +71,9 @@ func hasForm(n api.Node) bool {
 
 func (f form) takesText(s string) bool {
 	if f.number {
-		return isNumber(s)
+		return numeral.Is(s)
 	}
 	return s == ""
-}
-
-// isNumber asks whether a text is a query whose number is all of it.
-func isNumber(s string) bool {
-	t, _, _ := parse.Parse(s)
-	return len(t) == 1 && t[0].Text == s
 }
 
 func (f form) takesGroup(group int, labels []string) bool {
